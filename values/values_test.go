@@ -61,6 +61,9 @@ func TestP20Names(t *testing.T) {
 		if err := values.Check(register(0, name, ""), 1); err != nil {
 			t.Errorf("Check of key %q = %v", name, err)
 		}
+		if err := values.CheckName(name); err != nil {
+			t.Errorf("CheckName(%q) = %v", name, err)
+		}
 		if _, err := values.Of(name, nil); err != nil {
 			t.Errorf("Of(%q, nil) = %v", name, err)
 		}
@@ -72,6 +75,9 @@ func TestP20Names(t *testing.T) {
 	for _, name := range wrong {
 		if err := values.Check(register(0, name, ""), 1); err != api.ErrName {
 			t.Errorf("Check of key %.20q = %v, want ErrName", name, err)
+		}
+		if err := values.CheckName(name); err != api.ErrName {
+			t.Errorf("CheckName(%.20q) = %v, want ErrName", name, err)
 		}
 		if v, err := values.Of(name, nil); err != api.ErrName || !same(v, api.Value{}) {
 			t.Errorf("Of(%.20q, nil) = %v, %v, want ErrName", name, v, err)
