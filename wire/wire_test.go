@@ -509,3 +509,24 @@ func TestP4MemoryStaysApart(t *testing.T) {
 		t.Error("two lists of one answer share memory")
 	}
 }
+
+func TestP4CopyStaysApart(t *testing.T) {
+	for i, m := range messages() {
+		if got := wire.Copy(m); !same(got, m) {
+			t.Errorf("message %d: Copy = %#v, want %#v", i, got, m)
+		}
+	}
+	m := sample()
+	m.C.Ops[1].Dots = m.C.Ops[0].Dots
+	want, _ := wire.Encode(m)
+	c := wire.Copy(m)
+	c.C.When[0] = 99
+	c.C.Ops[0].Dots[0].Place = 98
+	c.C.Ops[2] = api.Op{Key: "other"}
+	if got, _ := wire.Encode(m); got != want {
+		t.Error("what was written into a copy shows in what was copied")
+	}
+	if c.C.Ops[1].Dots[0].Place != 13 {
+		t.Error("two lists of one copy share memory")
+	}
+}
