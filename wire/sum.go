@@ -7,12 +7,13 @@ const (
 
 // sumOf is the remainder of a text, as its bytes, the highest first.
 func sumOf(s string) string {
-	sum := ^remainder(s)
+	sum := Remainder(s)
 	return string([]byte{byte(sum >> 24), byte(sum >> 16), byte(sum >> 8), byte(sum)})
 }
 
-// remainder of a text, the lowest bit of each byte first, begun with all bits.
-func remainder(s string) uint32 {
+// Remainder of a text, the lowest bit of each byte first, begun with all bits
+// and turned at the end.
+func Remainder(s string) uint32 {
 	left := ^uint32(0)
 	for i := range len(s) {
 		left ^= uint32(s[i])
@@ -24,5 +25,5 @@ func remainder(s string) uint32 {
 			}
 		}
 	}
-	return left
+	return ^left
 }

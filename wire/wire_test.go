@@ -172,6 +172,14 @@ func TestP40Sum(t *testing.T) {
 	wantRefused(t, "digits with the sum that is not turned at the end", "123456789\x34\x0b\xc6\xd9", api.ErrSum)
 	wantRefused(t, "nothing, with its sum", "\x00\x00\x00\x00", api.ErrText)
 	wantRefused(t, "nothing, with the sum that is not turned at the end", "\xff\xff\xff\xff", api.ErrSum)
+	if got := wire.Remainder("123456789"); got != 0xCBF43926 {
+		t.Errorf("Remainder of the digits = %#x", got)
+	}
+	for _, s := range []string{"", "a", "k0", "\x00", "\xff\xfe", strings.Repeat("z", 1000)} {
+		if got, want := wire.Remainder(s), crc32.ChecksumIEEE([]byte(s)); got != want {
+			t.Errorf("Remainder(%.20q) = %#x, want %#x", s, got, want)
+		}
+	}
 }
 
 func TestP40EncodeFull(t *testing.T) {
