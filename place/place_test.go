@@ -195,8 +195,8 @@ func TestP60New(t *testing.T) {
 				}
 				p := newPlace(t, id, places, shards)
 				wantSnapshot(t, "new", p, make([]int, places)...)
-				if p.Clock() != 0 || len(p.Again()) != 0 || len(p.Beat()) != (places-1)*shards {
-					t.Errorf("New(%d, %d, %d): clock %d, again %v", id, places, shards, p.Clock(), p.Again())
+				if p.ID() != id || p.Clock() != 0 || len(p.Again()) != 0 || len(p.Beat()) != (places-1)*shards {
+					t.Errorf("New(%d, %d, %d): number %d, clock %d, again %v", id, places, shards, p.ID(), p.Clock(), p.Again())
 				}
 			}
 		}
