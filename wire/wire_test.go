@@ -523,18 +523,22 @@ func TestP4CopyStaysApart(t *testing.T) {
 		if got := wire.Copy(m); !same(got, m) {
 			t.Errorf("message %d: Copy = %#v, want %#v", i, got, m)
 		}
+		if got := wire.CopyCommit(m.C); !same(wire.Message{C: got}, wire.Message{C: m.C}) {
+			t.Errorf("message %d: CopyCommit = %#v, want %#v", i, got, m.C)
+		}
 	}
 	m := sample()
 	m.C.Ops[1].Dots = m.C.Ops[0].Dots
 	want, _ := wire.Encode(m)
-	c := wire.Copy(m)
-	c.C.When[0] = 99
-	c.C.Ops[0].Dots[0].Place = 98
-	c.C.Ops[2] = api.Op{Key: "other"}
-	if got, _ := wire.Encode(m); got != want {
-		t.Error("what was written into a copy shows in what was copied")
-	}
-	if c.C.Ops[1].Dots[0].Place != 13 {
-		t.Error("two lists of one copy share memory")
+	for _, c := range []api.Commit{wire.Copy(m).C, wire.CopyCommit(m.C)} {
+		c.When[0] = 99
+		c.Ops[0].Dots[0].Place = 98
+		c.Ops[2] = api.Op{Key: "other"}
+		if got, _ := wire.Encode(m); got != want {
+			t.Error("what was written into a copy shows in what was copied")
+		}
+		if c.Ops[1].Dots[0].Place != 13 {
+			t.Error("two lists of one copy share memory")
+		}
 	}
 }
