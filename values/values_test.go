@@ -668,3 +668,18 @@ func TestP1WhateverIsGiven(t *testing.T) {
 		}
 	}
 }
+
+func TestP3WithoutPlace(t *testing.T) {
+	var none *api.Fault
+	for i, c := range []struct{ err, want error }{
+		{nil, nil},
+		{api.ErrName, api.ErrName},
+		{&api.Fault{At: 3, Err: api.ErrKind}, api.ErrKind},
+		{&api.Fault{At: 3}, nil},
+		{none, none},
+	} {
+		if got := values.WithoutPlace(c.err); got != c.want {
+			t.Errorf("WithoutPlace %d = %v, want %v", i, got, c.want)
+		}
+	}
+}
