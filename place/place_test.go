@@ -417,6 +417,9 @@ func TestP62AgainAndAcks(t *testing.T) {
 		beats(1, 2, 0, 1, 2), tells(1, 2, 1, 1, 1, first), tells(1, 2, 1, 2, 2, second), beats(1, 2, 1, 3, 2),
 	}
 	wantMessages(t, "all", p.Again(), all...)
+	for _, n := range []int{math.MinInt, -1, 0, 1, 2, 3, 4, 5, 7, 8, 9, math.MaxInt} {
+		wantMessages(t, fmt.Sprint("the first ", n), p.AgainFirst(n), all[:min(max(n, 0), len(all))]...)
+	}
 	hear := func(m wire.Message, want error) {
 		t.Helper()
 		if l, err := p.Hear(m); len(l) != 0 || err != want {

@@ -92,12 +92,11 @@ func (t *transaction) texts(key string, set []string, own []api.Op) ([]string, e
 	gone := dotsOf(own)
 	var out []string
 	for _, text := range set {
-		dots, err := t.here.Dots(key, text, t.at)
+		stands, err := t.stands(key, text, own, gone)
 		if err != nil {
 			return nil, err
 		}
-		// A text stays that has more dots than an op may name.
-		if slices.ContainsFunc(dots, func(d api.Dot) bool { _, named := gone[d]; return !named }) {
+		if stands {
 			out = append(out, text)
 		}
 	}
@@ -108,6 +107,19 @@ func (t *transaction) texts(key string, set []string, own []api.Op) ([]string, e
 	}
 	slices.Sort(out)
 	return slices.Compact(out), nil
+}
+
+// stands: a text that the place has, and of which own ops do not name all dots,
+// since it has more of them than an op may name.
+func (t *transaction) stands(key, text string, own []api.Op, gone map[api.Dot]struct{}) (bool, error) {
+	if !slices.ContainsFunc(own, func(o api.Op) bool { return o.Remove && o.Text == text }) {
+		return true, nil
+	}
+	dots, err := t.here.Dots(key, text, t.at)
+	if err != nil {
+		return false, err
+	}
+	return slices.ContainsFunc(dots, func(d api.Dot) bool { _, named := gone[d]; return !named }), nil
 }
 
 // dotsOf ops: all that they name.

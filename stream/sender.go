@@ -1,6 +1,7 @@
 package stream
 
 import (
+	"math"
 	"slices"
 
 	"causeway/api"
@@ -82,11 +83,17 @@ func (s *Sender) acked() int {
 
 // Again what is not acked.
 func (s *Sender) Again() []wire.Message {
+	return s.AgainFirst(math.MaxInt)
+}
+
+// AgainFirst is the first n of Again's, at most: to copy what there is no room
+// for would take long, of a sender that is never acked.
+func (s *Sender) AgainFirst(n int) []wire.Message {
 	if s == nil {
 		return nil
 	}
 	var l []wire.Message
-	for _, m := range s.unacked {
+	for _, m := range s.unacked[:min(max(n, 0), len(s.unacked))] {
 		l = append(l, wire.Copy(m))
 	}
 	return l

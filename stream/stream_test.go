@@ -336,6 +336,30 @@ func TestP50Acked(t *testing.T) {
 	}
 }
 
+func TestP50AgainFirst(t *testing.T) {
+	s := sender(t)
+	wantMessages(t, "at first", s.AgainFirst(3))
+	var l []wire.Message
+	for i := 1; i <= 5; i++ {
+		m, err := s.Commit(removal(10 * i))
+		wantMessage(t, "a commit", m, err, numbered(i))
+		l = append(l, m)
+	}
+	for _, n := range []int{math.MinInt, -1, 0, 1, 2, 4, 5, 6, math.MaxInt} {
+		want := l[:min(max(n, 0), 5)]
+		wantMessages(t, fmt.Sprint("the first ", n), s.AgainFirst(n), want...)
+		for _, m := range s.AgainFirst(n) {
+			m.C.When[0], m.C.Ops[0].Key = 77, "spoiled"
+		}
+	}
+	if err := s.Acked(3); err != nil {
+		t.Fatal(err)
+	}
+	wantMessages(t, "the first that is not acked", s.AgainFirst(1), l[3])
+	s, _ = stream.NewSender(0, 0, 0)
+	wantMessages(t, "nil", s.AgainFirst(1))
+}
+
 func TestP51OneByOne(t *testing.T) {
 	r := receiver(t)
 	wantAt(t, "at first", r, 0, 0)

@@ -14,8 +14,12 @@ type messages struct {
 
 // send what there is room for: what is beyond is lost.
 func (m *messages) send(l []wire.Message) {
-	room := api.MaxFlying - len(m.flying)
-	m.flying = append(m.flying, l[:min(len(l), room)]...)
+	m.flying = append(m.flying, l[:min(len(l), m.room())]...)
+}
+
+// room for so many more.
+func (m *messages) room() int {
+	return api.MaxFlying - len(m.flying)
 }
 
 // land takes a message off its way.
@@ -34,7 +38,7 @@ func (m *messages) double(at int) error {
 	switch {
 	case !m.flies(at):
 		return api.ErrNone
-	case len(m.flying) >= api.MaxFlying:
+	case m.room() < 1:
 		return api.ErrFull
 	}
 	m.flying = slices.Insert(m.flying, at+1, m.flying[at])

@@ -707,6 +707,22 @@ func TestP83AtMost(t *testing.T) {
 	wantRead(t, "it goes on", w, 0, "n", isCounter(api.MaxEvents))
 }
 
+func TestP83Counts(t *testing.T) {
+	for places := 1; places <= api.MaxPlaces; places++ {
+		w := newWorld(t, places, 2)
+		for range 30 {
+			if n := w.CountPlaces(); n != places {
+				t.Errorf("%d places, want %d", n, places)
+			}
+			if n := w.CountFlying(); n != len(w.Flying()) {
+				t.Errorf("%d fly, want %d", n, len(w.Flying()))
+			}
+			must(t, w.Beat(0))
+			_ = w.Drop(0)
+		}
+	}
+}
+
 func TestP83SnapshotAndToken(t *testing.T) {
 	w := newWorld(t, 2, 1)
 	for _, n := range []int{math.MinInt, -1, 2, 6, math.MaxInt} {
